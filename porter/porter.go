@@ -1,0 +1,58 @@
+// Package porter: keys go to places, and few move when places come and go: see DOC.md.
+package porter
+
+import (
+	"porter/api"
+	"porter/keys"
+	"porter/places"
+)
+
+// Jump tells which of n places, all of which stand, a key goes to (P3).
+func Jump(key uint64, n int) (int, api.Errno) {
+	if !isSize(n) {
+		return 0, api.ErrArg
+	}
+	return keys.Jump(key, n), api.OK
+}
+
+// Pool is places, some of which stand.
+type Pool struct {
+	places places.Set
+}
+
+// New makes a pool of n places (P4).
+func New(n int) (*Pool, api.Errno) {
+	if !isSize(n) {
+		return nil, api.ErrArg
+	}
+	return &Pool{places: places.New(n)}, api.OK
+}
+
+// Take takes a place away (P5).
+func (p *Pool) Take(place int) api.Errno { return p.places.Take(place) }
+
+// Give gives a place back, or a new one (P5).
+func (p *Pool) Give() (int, api.Errno) { return p.places.Give() }
+
+// Standing tells the places that stand (P5).
+func (p *Pool) Standing() []int { return p.places.Standing() }
+
+// Place tells where a key goes (P6).
+func (p *Pool) Place(key uint64) int { return 0 }
+
+// Places tells where several keys go (P6).
+func (p *Pool) Places(keys []uint64) []int { return nil }
+
+// Asked tells how many keys were asked for (P6).
+func (p *Pool) Asked() uint64 { return 0 }
+
+// Route tells where a flow goes (P7).
+func (p *Pool) Route(flow string, now int) (int, api.Errno) { return 0, api.OK }
+
+// Journal tells all that was taken and given (P8).
+func (p *Pool) Journal() []byte { return nil }
+
+// Recover makes a pool of a journal (P9).
+func Recover(journal []byte) (*Pool, int, api.Errno) { return nil, 0, api.OK }
+
+func isSize(n int) bool { return n >= 1 && n <= api.MaxPlaces }
