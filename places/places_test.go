@@ -5,39 +5,47 @@ import (
 	"testing"
 
 	"porter/api"
+	"porter/keys"
 )
 
-// model holds the document's rows themselves: what stands is the last row.
+// model holds a pool's size and what was taken, and makes the document's rows anew each time.
 type model struct {
-	rows  [][]int
+	size  int
 	taken []int
 }
 
-func newModel(n int) *model {
-	m := &model{rows: [][]int{{}}}
-	for place := range n {
-		m.rows[0] = append(m.rows[0], place)
+// row tells the row behind the first i that were taken.
+func (m *model) row(i int) []int {
+	row := make([]int, m.size)
+	for place := range row {
+		row[place] = place
 	}
-	return m
+	for _, place := range m.taken[:i] {
+		spot := slices.Index(row, place)
+		row[spot] = row[len(row)-1]
+		row = row[:len(row)-1]
+	}
+	return row
 }
 
-func (m *model) last() []int { return m.rows[len(m.rows)-1] }
+func (m *model) standing() []int {
+	row := m.row(len(m.taken))
+	slices.Sort(row)
+	return row
+}
 
 func (m *model) take(place int) api.Errno {
-	spot := slices.Index(m.last(), place)
+	standing := m.standing()
 	switch {
-	case spot < 0:
+	case !slices.Contains(standing, place):
 		return api.ErrNone
-	case len(m.last()) == 1:
+	case len(standing) == 1:
 		return api.ErrLast
-	case len(m.rows) == 1 && spot == len(m.last())-1:
-		m.rows[0] = m.rows[0][:spot]
-		return api.OK
+	case len(m.taken) == 0 && place == m.size-1:
+		m.size--
+	default:
+		m.taken = append(m.taken, place)
 	}
-	row := slices.Clone(m.last())
-	row[spot] = row[len(row)-1]
-	m.rows = append(m.rows, row[:len(row)-1])
-	m.taken = append(m.taken, place)
 	return api.OK
 }
 
@@ -45,25 +53,30 @@ func (m *model) give() (int, api.Errno) {
 	if n := len(m.taken); n > 0 {
 		place := m.taken[n-1]
 		m.taken = m.taken[:n-1]
-		m.rows = m.rows[:n]
 		return place, api.OK
 	}
-	n := len(m.rows[0])
-	if n == api.MaxPlaces {
+	if m.size == api.MaxPlaces {
 		return 0, api.ErrFull
 	}
-	m.rows[0] = append(slices.Clone(m.rows[0]), n)
-	return n, api.OK
+	m.size++
+	return m.size - 1, api.OK
 }
 
-func (m *model) standing() []int { return slices.Sorted(slices.Values(m.last())) }
+func (m *model) find(key uint64) int {
+	place := keys.Jump(key, m.size)
+	for slices.Contains(m.taken, place) {
+		row := m.row(slices.Index(m.taken, place) + 1)
+		place = row[keys.Mix(key^keys.Mix(uint64(place+1)))%uint64(len(row))]
+	}
+	return place
+}
 
 const giveStep = -2
 
 // play does the same steps with a set and with the model, and holds the answers against each other.
 func play(t *testing.T, n int, steps []int) {
 	t.Helper()
-	s, m := New(n), newModel(n)
+	s, m := New(n), &model{size: n}
 	for i, step := range steps {
 		if step == giveStep {
 			got, e := s.Give()
@@ -79,9 +92,15 @@ func play(t *testing.T, n int, steps []int) {
 		if got, want := s.Standing(), m.standing(); !slices.Equal(got, want) {
 			t.Fatalf("P5: of %d places, steps %v: Standing() = %v, want %v", n, steps[:i+1], got, want)
 		}
-		// Whether a place was taken or the size is less, Standing tells the same; keys go elsewhere.
-		if s.size != len(m.rows[0]) || !slices.Equal(s.taken, m.taken) {
-			t.Fatalf("P5: of %d places, steps %v: the size is %d, taken are %v, want %d, %v", n, steps[:i+1], s.size, s.taken, len(m.rows[0]), m.taken)
+		for j := range uint64(4) {
+			key := (uint64(i)*4 + j) * 0x9e3779b97f4a7c15
+			if got, want := s.Find(key), m.find(key); got != want {
+				t.Fatalf("P6: of %d places, steps %v: Find(%d) = %d, want %d", n, steps[:i+1], key, got, want)
+			}
+		}
+		// Whether a place was taken or the size is less, Standing tells the same, and so do many keys.
+		if s.size() != m.size || !slices.Equal(s.taken, m.taken) {
+			t.Fatalf("P5: of %d places, steps %v: the size is %d, taken are %v, want %d, %v", n, steps[:i+1], s.size(), s.taken, m.size, m.taken)
 		}
 	}
 }

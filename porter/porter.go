@@ -2,9 +2,12 @@
 package porter
 
 import (
+	"sync/atomic"
+
 	"porter/api"
 	"porter/keys"
 	"porter/places"
+	"porter/recent"
 )
 
 // Jump tells which of n places, all of which stand, a key goes to (P3).
@@ -18,6 +21,9 @@ func Jump(key uint64, n int) (int, api.Errno) {
 // Pool is places, some of which stand.
 type Pool struct {
 	places places.Set
+	asked  atomic.Uint64 // keys may be asked for by several goroutines at once
+	flows  recent.Store[string, visit]
+	latest int // the last time that Route was told without an error
 }
 
 // New makes a pool of n places (P4).
@@ -25,7 +31,10 @@ func New(n int) (*Pool, api.Errno) {
 	if !isSize(n) {
 		return nil, api.ErrArg
 	}
-	return &Pool{places: places.New(n)}, api.OK
+	return &Pool{
+		places: places.New(n),
+		flows:  recent.New[string, visit](api.MaxFlows),
+	}, api.OK
 }
 
 // Take takes a place away (P5).
@@ -38,16 +47,19 @@ func (p *Pool) Give() (int, api.Errno) { return p.places.Give() }
 func (p *Pool) Standing() []int { return p.places.Standing() }
 
 // Place tells where a key goes (P6).
-func (p *Pool) Place(key uint64) int { return 0 }
+func (p *Pool) Place(key uint64) int {
+	p.asked.Add(1)
+	return p.places.Find(key)
+}
 
 // Places tells where several keys go (P6).
-func (p *Pool) Places(keys []uint64) []int { return nil }
+func (p *Pool) Places(keys []uint64) []int {
+	p.asked.Add(uint64(len(keys)))
+	return p.places.FindAll(keys)
+}
 
 // Asked tells how many keys were asked for (P6).
-func (p *Pool) Asked() uint64 { return 0 }
-
-// Route tells where a flow goes (P7).
-func (p *Pool) Route(flow string, now int) (int, api.Errno) { return 0, api.OK }
+func (p *Pool) Asked() uint64 { return p.asked.Load() }
 
 // Journal tells all that was taken and given (P8).
 func (p *Pool) Journal() []byte { return nil }
