@@ -42,18 +42,28 @@ func (s *Set) Take(place int) api.Errno {
 
 // Give gives back what was taken last, or a new place where nothing is taken.
 func (s *Set) Give() (int, api.Errno) {
+	place, e := s.Next()
+	if e != api.OK {
+		return 0, e
+	}
 	if last := len(s.taken) - 1; last >= 0 {
-		place := s.taken[last]
 		s.taken = s.taken[:last]
 		s.rows = s.rows[:last+1]
-		return place, api.OK
+	} else {
+		s.rows[0] = append(s.rows[0], place)
 	}
-	size := s.size()
-	if size == api.MaxPlaces {
+	return place, api.OK
+}
+
+// Next tells what Give would, and gives nothing.
+func (s *Set) Next() (int, api.Errno) {
+	if last := len(s.taken) - 1; last >= 0 {
+		return s.taken[last], api.OK
+	}
+	if s.size() == api.MaxPlaces {
 		return 0, api.ErrFull
 	}
-	s.rows[0] = append(s.rows[0], size)
-	return size, api.OK
+	return s.size(), api.OK
 }
 
 // Standing tells the places that stand, in order, in a list of the caller's own.

@@ -79,7 +79,11 @@ func play(t *testing.T, n int, steps []int) {
 	s, m := New(n), &model{size: n}
 	for i, step := range steps {
 		if step == giveStep {
+			next, nextErr := s.Next()
 			got, e := s.Give()
+			if next != got || nextErr != e {
+				t.Fatalf("P9: of %d places, steps %v: Next() = %d, %d, and Give() = %d, %d", n, steps[:i+1], next, nextErr, got, e)
+			}
 			if want, wantErr := m.give(); got != want || e != wantErr {
 				t.Fatalf("P5: of %d places, steps %v: Give() = %d, %d, want %d, %d", n, steps[:i+1], got, e, want, wantErr)
 			}

@@ -147,25 +147,6 @@ func TestPlacesOfOneKeyManyTimes(t *testing.T) {
 	}
 }
 
-func TestFewKeysMove(t *testing.T) {
-	list := manyKeys(2000)
-	p := newPool(t, 12)
-	for _, place := range []int{11, 4, 10, 0, 7, 9} {
-		was := p.Places(list)
-		wantTake(t, p, place, api.OK)
-		for i, now := range p.Places(list) {
-			if now == place || now != was[i] && was[i] != place {
-				t.Fatalf("P6: when %d was taken, key %d went from %d to %d", place, list[i], was[i], now)
-			}
-		}
-		wantGive(t, p, place)
-		if !slices.Equal(p.Places(list), was) {
-			t.Fatalf("P6: when %d was given back, not all keys came back", place)
-		}
-		wantTake(t, p, place, api.OK)
-	}
-}
-
 func TestKeysAreNotWrittenInto(t *testing.T) {
 	p := poolLess(t, 10, 3, 9)
 	whole := manyKeys(40)

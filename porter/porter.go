@@ -8,6 +8,7 @@ import (
 	"porter/keys"
 	"porter/places"
 	"porter/recent"
+	"porter/records"
 )
 
 // Jump tells which of n places, all of which stand, a key goes to (P3).
@@ -20,10 +21,11 @@ func Jump(key uint64, n int) (int, api.Errno) {
 
 // Pool is places, some of which stand.
 type Pool struct {
-	places places.Set
-	asked  atomic.Uint64 // keys may be asked for by several goroutines at once
-	flows  recent.Store[string, visit]
-	latest int // the last time that Route was told without an error
+	places  places.Set
+	asked   atomic.Uint64 // keys may be asked for by several goroutines at once
+	flows   recent.Store[string, visit]
+	latest  int    // the last time that Route was told without an error
+	journal []byte // records of all that was done, from the making of the pool on
 }
 
 // New makes a pool of n places (P4).
@@ -31,17 +33,31 @@ func New(n int) (*Pool, api.Errno) {
 	if !isSize(n) {
 		return nil, api.ErrArg
 	}
-	return &Pool{
+	p := &Pool{
 		places: places.New(n),
 		flows:  recent.New[string, visit](api.MaxFlows),
-	}, api.OK
+	}
+	p.write(records.Made, n)
+	return p, api.OK
 }
 
 // Take takes a place away (P5).
-func (p *Pool) Take(place int) api.Errno { return p.places.Take(place) }
+func (p *Pool) Take(place int) api.Errno {
+	e := p.places.Take(place)
+	if e == api.OK {
+		p.write(records.Taken, place)
+	}
+	return e
+}
 
 // Give gives a place back, or a new one (P5).
-func (p *Pool) Give() (int, api.Errno) { return p.places.Give() }
+func (p *Pool) Give() (int, api.Errno) {
+	place, e := p.places.Give()
+	if e == api.OK {
+		p.write(records.Given, place)
+	}
+	return place, e
+}
 
 // Standing tells the places that stand (P5).
 func (p *Pool) Standing() []int { return p.places.Standing() }
@@ -60,11 +76,5 @@ func (p *Pool) Places(keys []uint64) []int {
 
 // Asked tells how many keys were asked for (P6).
 func (p *Pool) Asked() uint64 { return p.asked.Load() }
-
-// Journal tells all that was taken and given (P8).
-func (p *Pool) Journal() []byte { return nil }
-
-// Recover makes a pool of a journal (P9).
-func Recover(journal []byte) (*Pool, int, api.Errno) { return nil, 0, api.OK }
 
 func isSize(n int) bool { return n >= 1 && n <= api.MaxPlaces }
